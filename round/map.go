@@ -1,0 +1,184 @@
+package round
+
+import (
+	"slices"
+
+	"breeze/api"
+)
+
+// cart is a place in a round: the corner at which one is, the streets through which one still has
+// to go, and those of them through which one has to go twice.
+type cart struct {
+	at          int
+	left, again set
+}
+
+func (m Map) all() set { return below(len(m.Streets)) }
+
+func (m Map) ends(street int) set {
+	s := m.Streets[street]
+	return one(s[0]) | one(s[1])
+}
+
+// other is the corner to which a street leads from one of its corners.
+func (m Map) other(street, corner int) int {
+	s := m.Streets[street]
+	return s[0] + s[1] - corner
+}
+
+// reached returns the corners to which one comes by some streets.
+func (m Map) reached(from int, by set) set {
+	found := one(from)
+	// each time but the last one finds a corner
+	for range m.Corners {
+		for i := range m.Streets {
+			if by.has(i) && m.ends(i)&found != 0 {
+				found |= m.ends(i)
+			}
+		}
+	}
+	return found
+}
+
+// odd returns the corners that an odd number of these streets have.
+func (m Map) odd(streets set) set {
+	var odd set
+	for i := range m.Streets {
+		if streets.has(i) {
+			odd ^= m.ends(i)
+		}
+	}
+	return odd
+}
+
+// isEnough asks only for the corners that are odd, because one comes to all corners anyway: if an
+// even number of streets leads away from each of them, there is a round.
+func (m Map) isEnough(twice set) bool { return m.odd(twice) == m.odd(m.all()) }
+
+// twice checks the map and a list of streets that are gone through twice.
+func (m Map) twice(l []int) (set, api.Errno) {
+	if e := Check(m); e != api.OK {
+		return 0, e
+	}
+	s, e := ascending(l, len(m.Streets))
+	if e != api.OK {
+		return 0, e
+	}
+	if !m.isEnough(s) {
+		return 0, api.ErrProof
+	}
+	return s, api.OK
+}
+
+func isFewer(a, b []int) bool {
+	if len(a) != len(b) {
+		return len(a) < len(b)
+	}
+	return slices.Compare(a, b) < 0
+}
+
+// through sends a cart through a street.
+func (m Map) through(c cart, street int) cart {
+	if c.again.has(street) {
+		c.again &^= one(street)
+	} else {
+		c.left &^= one(street)
+	}
+	c.at = m.other(street, c.at)
+	return c
+}
+
+// firstRound returns the first round of a cart that goes twice through streets that are enough.
+func (m Map) firstRound(again set) []int {
+	c := cart{at: 0, left: m.all(), again: again}
+	var round []int
+	for {
+		i, ok := m.next(c)
+		if !ok {
+			return round
+		}
+		round = append(round, i)
+		c = m.through(c, i)
+	}
+}
+
+// next returns the first street after which one can still go through all that is left.
+func (m Map) next(c cart) (street int, ok bool) {
+	for _, i := range c.left.list() {
+		if m.ends(i).has(c.at) && m.goesOn(m.through(c, i)) {
+			return i, true
+		}
+	}
+	return 0, false
+}
+
+// goesOn tells whether one comes to all streets that are left. If so, one can go through all of
+// them and end at the yard, because an odd number of passes is left at no other corner than the
+// yard and the one at which one is.
+func (m Map) goesOn(c cart) bool {
+	found := m.reached(c.at, c.left)
+	for _, i := range c.left.list() {
+		if !m.ends(i).isWithin(found) {
+			return false
+		}
+	}
+	return true
+}
+
+func (m Map) side(l []int) (set, api.Errno) {
+	s, e := ascending(l, m.Corners)
+	if e != api.OK {
+		return 0, e
+	}
+	if s == 0 || s == below(m.Corners) {
+		return 0, api.ErrShape
+	}
+	return s, api.OK
+}
+
+func (m Map) cut(side set) set {
+	var cut set
+	for i := range m.Streets {
+		if (m.ends(i) & side).isOdd() {
+			cut |= one(i)
+		}
+	}
+	return cut
+}
+
+// oddCuts returns the cuts of all sides with an odd number of odd corners, in ascending order.
+// None of these sides is empty or has all corners, because an even number of corners are odd.
+func (m Map) oddCuts() []set {
+	odd := m.odd(m.all())
+	var cuts []set
+	for side := range below(m.Corners) {
+		// the corners that are not in a side have the same cut
+		if side.has(0) && (side & odd).isOdd() {
+			cuts = append(cuts, m.cut(side))
+		}
+	}
+	slices.SortFunc(cuts, func(a, b set) int { return slices.Compare(a.list(), b.list()) })
+	return cuts
+}
+
+// mostOf returns a function that tells how many of the cuts a set of streets can have, if no two
+// of them have a street in common. It keeps what it has found out, because one comes to the same
+// set by taking away the same cuts in another order.
+func mostOf(cuts []set) func(free set) int {
+	known := map[set]int{}
+	var most func(free set) int
+	most = func(free set) int {
+		if n, ok := known[free]; ok {
+			return n
+		}
+		n := 0
+		for _, c := range cuts {
+			if c.isWithin(free) {
+				n = max(n, 1+most(free&^c))
+			}
+		}
+		known[free] = n
+		return n
+	}
+	return most
+}

@@ -7,6 +7,7 @@ import (
 	"slices"
 
 	"breeze/api"
+	"breeze/index"
 )
 
 // The limits, and how many parts a penny has.
@@ -155,7 +156,7 @@ func Proves(worth int, claims, gets []int, i, j int) api.Errno {
 	if e := Valid(worth, claims, gets); e != api.OK {
 		return e
 	}
-	if !isIndex(i, len(claims)) || !isIndex(j, len(claims)) {
+	if !index.Is(i, len(claims)) || !index.Is(j, len(claims)) {
 		return api.ErrNone
 	}
 	if i == j {
@@ -168,8 +169,6 @@ func Proves(worth int, claims, gets []int, i, j int) api.Errno {
 }
 
 func isClaim(c int) bool { return c >= 1 && c <= MaxClaim }
-
-func isIndex(i, many int) bool { return i >= 0 && i < many }
 
 // known changes pence to parts, in which all divisions are whole numbers: 120 is divided by 2 for
 // halves, by up to 5 for houses that get the same, and by 5! for all orders.
@@ -265,7 +264,7 @@ func (h houses) eachOnce(order []int) api.Errno {
 	}
 	var came [MaxHouses]bool
 	for _, i := range order {
-		if !isIndex(i, h.many) {
+		if !index.Is(i, h.many) {
 			return api.ErrNone
 		}
 		if came[i] {

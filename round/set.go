@@ -4,6 +4,7 @@ import (
 	"math/bits"
 
 	"breeze/api"
+	"breeze/index"
 )
 
 // set has streets or corners: bit i stands for the one with number i.
@@ -34,17 +35,12 @@ func (s set) list() []int {
 // ascending changes a list to a set, or returns the error of its first number that is not less
 // than many, or not greater than the one before it.
 func ascending(l []int, many int) (set, api.Errno) {
+	if e := index.Ascending(l, many); e != api.OK {
+		return 0, e
+	}
 	var s set
-	for k, i := range l {
-		if !isIndex(i, many) {
-			return 0, api.ErrNone
-		}
-		if k > 0 && i <= l[k-1] {
-			return 0, api.ErrOrder
-		}
+	for _, i := range l {
 		s |= one(i)
 	}
 	return s, api.OK
 }
-
-func isIndex(i, many int) bool { return i >= 0 && i < many }

@@ -4,20 +4,21 @@ import (
 	"slices"
 
 	"breeze/api"
+	"breeze/index"
 )
 
 // cart is a place in a round: the corner at which one is, the streets through which one still has
 // to go, and those of them through which one has to go twice.
 type cart struct {
 	at          int
-	left, again set
+	left, again index.Set
 }
 
-func (m Map) all() set { return below(len(m.Streets)) }
+func (m Map) all() index.Set { return index.Below(len(m.Streets)) }
 
-func (m Map) ends(street int) set {
+func (m Map) ends(street int) index.Set {
 	s := m.Streets[street]
-	return one(s[0]) | one(s[1])
+	return index.One(s[0]) | index.One(s[1])
 }
 
 // other is the corner to which a street leads from one of its corners.
@@ -27,12 +28,12 @@ func (m Map) other(street, corner int) int {
 }
 
 // reached returns the corners to which one comes by some streets.
-func (m Map) reached(from int, by set) set {
-	found := one(from)
+func (m Map) reached(from int, by index.Set) index.Set {
+	found := index.One(from)
 	// each time but the last one finds a corner
 	for range m.Corners {
 		for i := range m.Streets {
-			if by.has(i) && m.ends(i)&found != 0 {
+			if by.Has(i) && m.ends(i)&found != 0 {
 				found |= m.ends(i)
 			}
 		}
@@ -41,10 +42,10 @@ func (m Map) reached(from int, by set) set {
 }
 
 // odd returns the corners that an odd number of these streets have.
-func (m Map) odd(streets set) set {
-	var odd set
+func (m Map) odd(streets index.Set) index.Set {
+	var odd index.Set
 	for i := range m.Streets {
-		if streets.has(i) {
+		if streets.Has(i) {
 			odd ^= m.ends(i)
 		}
 	}
@@ -53,14 +54,14 @@ func (m Map) odd(streets set) set {
 
 // isEnough asks only for the corners that are odd, because one comes to all corners anyway: if an
 // even number of streets leads away from each of them, there is a round.
-func (m Map) isEnough(twice set) bool { return m.odd(twice) == m.odd(m.all()) }
+func (m Map) isEnough(twice index.Set) bool { return m.odd(twice) == m.odd(m.all()) }
 
 // twice checks the map and a list of streets that are gone through twice.
-func (m Map) twice(l []int) (set, api.Errno) {
+func (m Map) twice(l []int) (index.Set, api.Errno) {
 	if e := Check(m); e != api.OK {
 		return 0, e
 	}
-	s, e := ascending(l, len(m.Streets))
+	s, e := index.SetOf(l, len(m.Streets))
 	if e != api.OK {
 		return 0, e
 	}
@@ -69,6 +70,8 @@ func (m Map) twice(l []int) (set, api.Errno) {
 	}
 	return s, api.OK
 }
+
+func isOdd(s index.Set) bool { return s.Many()%2 == 1 }
 
 func isFewer(a, b []int) bool {
 	if len(a) != len(b) {
@@ -79,17 +82,17 @@ func isFewer(a, b []int) bool {
 
 // through sends a cart through a street.
 func (m Map) through(c cart, street int) cart {
-	if c.again.has(street) {
-		c.again &^= one(street)
+	if c.again.Has(street) {
+		c.again &^= index.One(street)
 	} else {
-		c.left &^= one(street)
+		c.left &^= index.One(street)
 	}
 	c.at = m.other(street, c.at)
 	return c
 }
 
 // firstRound returns the first round of a cart that goes twice through streets that are enough.
-func (m Map) firstRound(again set) []int {
+func (m Map) firstRound(again index.Set) []int {
 	c := cart{at: 0, left: m.all(), again: again}
 	var round []int
 	for {
@@ -104,8 +107,8 @@ func (m Map) firstRound(again set) []int {
 
 // next returns the first street after which one can still go through all that is left.
 func (m Map) next(c cart) (street int, ok bool) {
-	for _, i := range c.left.list() {
-		if m.ends(i).has(c.at) && m.goesOn(m.through(c, i)) {
+	for _, i := range c.left.List() {
+		if m.ends(i).Has(c.at) && m.goesOn(m.through(c, i)) {
 			return i, true
 		}
 	}
@@ -117,30 +120,30 @@ func (m Map) next(c cart) (street int, ok bool) {
 // yard and the one at which one is.
 func (m Map) goesOn(c cart) bool {
 	found := m.reached(c.at, c.left)
-	for _, i := range c.left.list() {
-		if !m.ends(i).isWithin(found) {
+	for _, i := range c.left.List() {
+		if !m.ends(i).IsWithin(found) {
 			return false
 		}
 	}
 	return true
 }
 
-func (m Map) side(l []int) (set, api.Errno) {
-	s, e := ascending(l, m.Corners)
+func (m Map) side(l []int) (index.Set, api.Errno) {
+	s, e := index.SetOf(l, m.Corners)
 	if e != api.OK {
 		return 0, e
 	}
-	if s == 0 || s == below(m.Corners) {
+	if s == 0 || s == index.Below(m.Corners) {
 		return 0, api.ErrShape
 	}
 	return s, api.OK
 }
 
-func (m Map) cut(side set) set {
-	var cut set
+func (m Map) cut(side index.Set) index.Set {
+	var cut index.Set
 	for i := range m.Streets {
-		if (m.ends(i) & side).isOdd() {
-			cut |= one(i)
+		if isOdd(m.ends(i) & side) {
+			cut |= index.One(i)
 		}
 	}
 	return cut
@@ -148,32 +151,32 @@ func (m Map) cut(side set) set {
 
 // oddCuts returns the cuts of all sides with an odd number of odd corners, in ascending order.
 // None of these sides is empty or has all corners, because an even number of corners are odd.
-func (m Map) oddCuts() []set {
+func (m Map) oddCuts() []index.Set {
 	odd := m.odd(m.all())
-	var cuts []set
-	for side := range below(m.Corners) {
+	var cuts []index.Set
+	for side := range index.Below(m.Corners) {
 		// the corners that are not in a side have the same cut
-		if side.has(0) && (side & odd).isOdd() {
+		if side.Has(0) && isOdd(side&odd) {
 			cuts = append(cuts, m.cut(side))
 		}
 	}
-	slices.SortFunc(cuts, func(a, b set) int { return slices.Compare(a.list(), b.list()) })
+	slices.SortFunc(cuts, index.Set.Compare)
 	return cuts
 }
 
 // mostOf returns a function that tells how many of the cuts a set of streets can have, if no two
 // of them have a street in common. It keeps what it has found out, because one comes to the same
 // set by taking away the same cuts in another order.
-func mostOf(cuts []set) func(free set) int {
-	known := map[set]int{}
-	var most func(free set) int
-	most = func(free set) int {
+func mostOf(cuts []index.Set) func(free index.Set) int {
+	known := map[index.Set]int{}
+	var most func(free index.Set) int
+	most = func(free index.Set) int {
 		if n, ok := known[free]; ok {
 			return n
 		}
 		n := 0
 		for _, c := range cuts {
-			if c.isWithin(free) {
+			if c.IsWithin(free) {
 				n = max(n, 1+most(free&^c))
 			}
 		}

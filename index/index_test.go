@@ -1,7 +1,9 @@
 package index_test
 
 import (
+	"cmp"
 	"math"
+	"math/rand/v2"
 	"slices"
 	"testing"
 
@@ -86,6 +88,63 @@ func TestSets(t *testing.T) {
 					t.Errorf("%v is within %v: %v", s.List(), other.List(), in)
 				}
 			}
+		}
+	}
+}
+
+func TestOf(t *testing.T) {
+	for _, x := range []struct{ l, want []int }{
+		{nil, nil},
+		{[]int{0}, []int{0}},
+		{[]int{1, 3, 12}, []int{1, 3, 12}},
+		// the order, and what is there twice, make no difference
+		{[]int{2, 0, 2}, []int{0, 2}},
+	} {
+		if s := index.Of(x.l); !slices.Equal(s.List(), x.want) {
+			t.Errorf("%v: %v, want %v", x.l, s.List(), x.want)
+		}
+	}
+}
+
+// apart returns all lists of sets of which no two have an index in common, in ascending order.
+func apart(sets []index.Set) [][]index.Set {
+	out := [][]index.Set{nil}
+	for i, s := range sets {
+		shares := func(other index.Set) bool { return s&other != 0 }
+		for _, l := range apart(slices.DeleteFunc(slices.Clone(sets[i+1:]), shares)) {
+			out = append(out, slices.Concat([]index.Set{s}, l))
+		}
+	}
+	return out
+}
+
+func TestApart(t *testing.T) {
+	// all families of sets of up to 3 indices, and some of sets of 6
+	var families [][]index.Set
+	for bits := range 1 << 7 {
+		var sets []index.Set
+		for i := range 7 {
+			if bits>>i&1 == 1 {
+				sets = append(sets, index.Set(i+1))
+			}
+		}
+		families = append(families, sets)
+	}
+	r := rand.New(rand.NewPCG(0, 1))
+	for range 500 {
+		var sets []index.Set
+		for range r.IntN(12) {
+			sets = append(sets, index.Set(1+r.IntN(63)&r.IntN(63)))
+		}
+		families = append(families, sets)
+	}
+	for _, sets := range families {
+		slices.SortFunc(sets, index.Set.Compare)
+		sets = slices.Compact(sets)
+		shorter := func(a, b []index.Set) int { return cmp.Compare(len(a), len(b)) }
+		want := slices.MaxFunc(apart(sets), shorter)
+		if l := index.Apart(sets); !slices.Equal(l, want) {
+			t.Errorf("%v: %v, want %v", sets, l, want)
 		}
 	}
 }

@@ -21,11 +21,16 @@ func SetOf(l []int, many int) (Set, api.Errno) {
 	if e := Ascending(l, many); e != api.OK {
 		return 0, e
 	}
+	return Of(l), api.OK
+}
+
+// Of changes a list of indices to a set.
+func Of(l []int) Set {
 	var s Set
 	for _, i := range l {
 		s |= One(i)
 	}
-	return s, api.OK
+	return s
 }
 
 // Has tells whether an index is in the set.

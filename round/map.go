@@ -163,25 +163,3 @@ func (m Map) oddCuts() []index.Set {
 	slices.SortFunc(cuts, index.Set.Compare)
 	return cuts
 }
-
-// mostOf returns a function that tells how many of the cuts a set of streets can have, if no two
-// of them have a street in common. It keeps what it has found out, because one comes to the same
-// set by taking away the same cuts in another order.
-func mostOf(cuts []index.Set) func(free index.Set) int {
-	known := map[index.Set]int{}
-	var most func(free index.Set) int
-	most = func(free index.Set) int {
-		if n, ok := known[free]; ok {
-			return n
-		}
-		n := 0
-		for _, c := range cuts {
-			if c.IsWithin(free) {
-				n = max(n, 1+most(free&^c))
-			}
-		}
-		known[free] = n
-		return n
-	}
-	return most
-}

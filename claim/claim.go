@@ -3,7 +3,6 @@ package claim
 
 import (
 	"cmp"
-	"iter"
 	"slices"
 
 	"breeze/api"
@@ -143,7 +142,7 @@ func Why(worth int, claims, gets []int) (i, j int, e api.Errno) {
 	if e := Valid(worth, claims, gets); e != api.OK {
 		return 0, 0, e
 	}
-	for i, j := range pairs(len(claims)) {
+	for i, j := range index.Pairs(len(claims)) {
 		if !atOne(claims, gets, i, j) {
 			return i, j, api.OK
 		}
@@ -195,19 +194,6 @@ func twice(worth, a, b int) (first, second int) {
 func atOne(claims, gets []int, i, j int) bool {
 	first, second := twice(gets[i]+gets[j], claims[i]*Parts, claims[j]*Parts)
 	return first == 2*gets[i] && second == 2*gets[j]
-}
-
-// pairs yields any two houses in the order in which Why looks for them.
-func pairs(many int) iter.Seq2[int, int] {
-	return func(yield func(int, int) bool) {
-		for i := range many {
-			for j := i + 1; j < many; j++ {
-				if !yield(i, j) {
-					return
-				}
-			}
-		}
-	}
 }
 
 func (r row) sum() int {

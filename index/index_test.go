@@ -148,3 +148,58 @@ func TestApart(t *testing.T) {
 		}
 	}
 }
+
+func TestPairs(t *testing.T) {
+	for many := range 6 {
+		var got, want [][2]int
+		for i, k := range index.Pairs(many) {
+			got = append(got, [2]int{i, k})
+		}
+		for n := range many * many {
+			if i, k := n/many, n%many; i < k {
+				want = append(want, [2]int{i, k})
+			}
+		}
+		if !slices.Equal(got, want) {
+			t.Errorf("Pairs of %d: %v, want %v", many, got, want)
+		}
+	}
+	// no more are wanted after one
+	for i, k := range index.Pairs(3) {
+		if i != 0 || k != 1 {
+			t.Errorf("first pair: %d %d", i, k)
+		}
+		break
+	}
+}
+
+func TestOrders(t *testing.T) {
+	want := 1
+	for many := range 8 {
+		want *= max(1, many)
+		all := slices.Collect(index.Orders(many))
+		if len(all) != want {
+			t.Errorf("Orders of %d: %d", many, len(all))
+		}
+		for i, l := range all {
+			if len(l) != many || !slices.Equal(index.Of(l).List(), index.Below(many).List()) {
+				t.Errorf("Orders of %d: %v", many, l)
+			}
+			if i > 0 && slices.Compare(all[i-1], l) >= 0 {
+				t.Errorf("Orders of %d: %v before %v", many, all[i-1], l)
+			}
+		}
+	}
+	// no more are wanted after two, and what is done with the first one does not change the second one
+	var came [][]int
+	for l := range index.Orders(3) {
+		came = append(came, slices.Clone(l))
+		l[0], l[1], l[2] = 2, 2, 2
+		if len(came) == 2 {
+			break
+		}
+	}
+	if !slices.Equal(came[0], []int{0, 1, 2}) || !slices.Equal(came[1], []int{0, 2, 1}) {
+		t.Errorf("Orders of 3: %v", came)
+	}
+}

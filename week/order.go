@@ -2,30 +2,10 @@ package week
 
 import (
 	"iter"
-	"slices"
 
 	"breeze/api"
+	"breeze/index"
 )
-
-// orders yields all lists that have each number less than many once, in ascending order.
-func orders(many int) iter.Seq[[]int] {
-	return func(yield func([]int) bool) {
-		eachOrder(nil, many, yield)
-	}
-}
-
-// eachOrder yields the orders that begin as head does, and tells whether more are wanted.
-func eachOrder(head []int, many int, yield func([]int) bool) bool {
-	if len(head) == many {
-		return yield(slices.Clone(head))
-	}
-	for i := range many {
-		if !slices.Contains(head, i) && !eachOrder(append(head, i), many, yield) {
-			return false
-		}
-	}
-	return true
-}
 
 // first returns the first of several lists, or an empty one if there is none.
 func first(lists iter.Seq[[]int]) []int {
@@ -46,7 +26,7 @@ func count(lists iter.Seq[[]int]) int {
 // fitting yields the rows that fit a plan, in ascending order.
 func fitting(streets int, plan [][]int) iter.Seq[[]int] {
 	return func(yield func([]int) bool) {
-		for row := range orders(streets) {
+		for row := range index.Orders(streets) {
 			if among(streets, plan, row) == api.OK && !yield(row) {
 				return
 			}
@@ -57,7 +37,7 @@ func fitting(streets int, plan [][]int) iter.Seq[[]int] {
 // crossings yields the crossings of a full plan, in ascending order.
 func crossings(streets int, plan [][]int) iter.Seq[[]int] {
 	return func(yield func([]int) bool) {
-		for days := range orders(streets) {
+		for days := range index.Orders(streets) {
 			if isCrossing(plan, days) && !yield(days) {
 				return
 			}

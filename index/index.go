@@ -1,5 +1,5 @@
 // Package index checks numbers that are the places of elements in a list, counted from 0, and has
-// pairs, orders and sets of such numbers.
+// pairs, orders and sets of such numbers. It also picks so many elements of a list in all ways.
 package index
 
 import "breeze/api"

@@ -5,6 +5,7 @@ import (
 	"math"
 	"math/rand/v2"
 	"slices"
+	"strings"
 	"testing"
 
 	"breeze/api"
@@ -201,5 +202,42 @@ func TestOrders(t *testing.T) {
 	}
 	if !slices.Equal(came[0], []int{0, 1, 2}) || !slices.Equal(came[1], []int{0, 2, 1}) {
 		t.Errorf("Orders of 3: %v", came)
+	}
+}
+
+func TestPicks(t *testing.T) {
+	l := []string{"c", "a", "b", "a"}
+	for many, want := range [][]string{
+		{""}, {"c", "a", "b", "a"}, {"ca", "cb", "ca", "ab", "aa", "ba"}, {"cab", "caa", "cba", "aba"}, {"caba"}, {}, {},
+	} {
+		var got []string
+		for _, picked := range index.Picks(l, many) {
+			got = append(got, strings.Join(picked, ""))
+			// what is done with one list does not change the next one
+			for i := range picked {
+				picked[i] = "x"
+			}
+		}
+		if !slices.Equal(got, want) {
+			t.Errorf("Picks of %v, %d: %v, want %v", l, many, got, want)
+		}
+	}
+	if !slices.Equal(l, []string{"c", "a", "b", "a"}) {
+		t.Errorf("the list was changed: %v", l)
+	}
+	for many := range 8 {
+		for size := range many + 2 {
+			picks := index.Picks(index.Below(many).List(), size)
+			var want [][]int
+			for s := range index.Below(many) + 1 {
+				if s.Many() == size {
+					want = append(want, s.List())
+				}
+			}
+			slices.SortFunc(want, slices.Compare)
+			if !slices.EqualFunc(picks, want, slices.Equal[[]int]) {
+				t.Errorf("Picks of %d of %d: %v, want %v", size, many, picks, want)
+			}
+		}
 	}
 }
